@@ -38,9 +38,10 @@ func program(s string) []impl.Line {
 	return list
 }
 
-// piece is a line with its block, and, for LnTry, with the other lines of its try.
+// piece is a line with its block, and, for LnTry, with the other lines of its try; at is the number of the line, where that is asked for (piecesOf).
 type piece struct {
 	line  impl.Line
+	at    int
 	block []piece
 	later []piece
 }
@@ -152,10 +153,11 @@ type outcome struct {
 	fault      *thrown
 }
 
-// world is what pieces tell, and whether something was raised again that was not there.
+// world is what pieces tell, the numbers of the lines that were run, and whether something was raised again that was not there.
 type world struct {
 	tree  impl.Tree
 	log   []int
+	ran   []int
 	asked bool
 }
 
@@ -172,6 +174,7 @@ func (w *world) block(list []piece, handled *thrown) outcome {
 // piece does one piece.
 func (w *world) piece(x piece, handled *thrown) outcome {
 	n := x.line
+	w.ran = append(w.ran, x.at)
 	switch n.Kind {
 	case impl.LnLog:
 		w.log = append(w.log, n.A)
@@ -221,9 +224,9 @@ func (w *world) try(x piece, handled *thrown) outcome {
 		switch {
 		case done:
 		case part.line.Kind == impl.LnExcept && first.end == impl.EdRaise && isBelow(w.tree, first.fault.class, part.line.A):
-			o, done = w.block(part.block, first.fault), true
+			o, done = w.part(part, first.fault), true
 		case part.line.Kind == impl.LnElse && first.end == impl.EdNext:
-			o, done = w.block(part.block, handled), true
+			o, done = w.part(part, handled), true
 		}
 		if part.line.Kind == impl.LnFinally {
 			// The fault is nil where there is none.
@@ -231,12 +234,18 @@ func (w *world) try(x piece, handled *thrown) outcome {
 			if o.end == impl.EdRaise {
 				inside = o.fault
 			}
-			if last := w.block(part.block, inside); last.end != impl.EdNext {
+			if last := w.part(part, inside); last.end != impl.EdNext {
 				o = last
 			}
 		}
 	}
 	return o
+}
+
+// part does the block of another line of a try than LnTry.
+func (w *world) part(x piece, handled *thrown) outcome {
+	w.ran = append(w.ran, x.at)
+	return w.block(x.block, handled)
 }
 
 // runOf returns what a program that is one does, and whether it raises something again that is not there.
