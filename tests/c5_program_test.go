@@ -571,9 +571,9 @@ func TestP61WhatIsRaisedLastHasWhatWasRaisedFirstAsItsContext(t *testing.T) {
 	}
 }
 
-// TestExceptHandlesFaults checks WithExcept: its lines, and what they do.
-func TestExceptHandlesFaults(t *testing.T) {
+func TestP62FaultsAreHandled(t *testing.T) {
 	x := mustParse(t, house)
+	passed, handled := 0, 0
 	everyTwoPrograms(func(p, q []impl.Line) {
 		first, second := impl.RunProgram(x, p), impl.RunProgram(x, q)
 		for _, a := range []int{0, 1, 2, 5} {
@@ -582,16 +582,21 @@ func TestExceptHandlesFaults(t *testing.T) {
 			if ok != fits(want, 0, 0) || !ok && w != nil || ok && !same(w, want) {
 				t.Fatalf("WithExcept(%v, %d, %v) = %v, %v", p, a, q, w, ok)
 			}
-			if !ok || asks(x, q) {
+			if !ok {
 				continue
 			}
 			got := impl.RunProgram(x, w)
 			if first.End != impl.EdRaise || !isBelow(x, first.Heap.Faults[first.Value].Class, a) {
+				passed++
 				if !sameResult(got, first) {
 					t.Errorf("WithExcept(%v, %d, %v) does %v, but the first one %v", p, a, q, got, first)
 				}
 				continue
 			}
+			if asks(x, q) {
+				continue
+			}
+			handled++
 			if !same(got.Log, slices.Concat(first.Log, second.Log)) || got.End != second.End || got.End != impl.EdRaise && got.Value != second.Value {
 				t.Errorf("WithExcept(%v, %d, %v) does %v", p, a, q, got)
 			}
@@ -600,6 +605,9 @@ func TestExceptHandlesFaults(t *testing.T) {
 			}
 		}
 	})
+	if passed < 1000 || handled < 1000 {
+		t.Errorf("only %d programs end with no fault of the class, and %d with one", passed, handled)
+	}
 }
 
 func TestExceptOfNoClass(t *testing.T) {

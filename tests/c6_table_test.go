@@ -595,8 +595,7 @@ func isCalm(p []impl.Line, way []int) bool {
 	return true
 }
 
-// TestWhatNobodyCatchesComesOut checks that a fault that is raised first, and that nothing catches, comes out alone.
-func TestWhatNobodyCatchesComesOut(t *testing.T) {
+func TestP77WhatNobodyCatchesComesOut(t *testing.T) {
 	x := mustParse(t, house)
 	count := 0
 	for _, p := range append(tablePrograms(), smallPrograms(5)...) {

@@ -24,18 +24,24 @@ func program(s string) []impl.Line {
 		if x.Kind < 0 {
 			panic("no line: " + part)
 		}
-		for i, to := range []*int{&x.A, &x.B} {
-			if i+1 < len(words) {
-				n, err := strconv.Atoi(words[i+1])
-				if err != nil {
-					panic("no number: " + part)
-				}
-				*to = n
-			}
-		}
+		x.A, x.B = twoNumbers(words[1:])
 		list = append(list, x)
 	}
 	return list
+}
+
+// twoNumbers returns up to two numbers of words; 0 for those that are not there.
+func twoNumbers(words []string) (a, b int) {
+	for i, to := range []*int{&a, &b} {
+		if i < len(words) {
+			n, err := strconv.Atoi(words[i])
+			if err != nil {
+				panic("no number: " + words[i])
+			}
+			*to = n
+		}
+	}
+	return a, b
 }
 
 // piece is a line with its block, and, for LnTry, with the other lines of its try; at is the number of the line, where that is asked for (piecesOf).
@@ -256,7 +262,12 @@ func runOf(x impl.Tree, p []impl.Line) (impl.Result, bool) {
 	}
 	w := &world{tree: x}
 	o := w.block(list, nil)
-	r := impl.Result{Log: w.log, End: o.end, Value: o.value}
+	return resultOf(w.log, o), w.asked
+}
+
+// resultOf returns what tells some numbers and ends with an outcome.
+func resultOf(log []int, o outcome) impl.Result {
+	r := impl.Result{Log: log, End: o.end, Value: o.value}
 	for f := o.fault; f != nil; f = f.context {
 		one := plain(f.class, f.code)
 		r.Heap.Faults = append(r.Heap.Faults, one)
@@ -267,7 +278,7 @@ func runOf(x impl.Tree, p []impl.Line) (impl.Result, bool) {
 		r.Heap.Faults[i].Context = i - 1
 		r.Value = i
 	}
-	return r, w.asked
+	return r
 }
 
 // asks reports whether a program raises something again that is not there.
